@@ -148,6 +148,49 @@ func TestStoresWithoutFault(t *testing.T) {
 	}
 }
 
+// faultyList are objects at a rev, as a store or a cache has them.
+type faultyList struct {
+	what    string
+	rev     int64
+	objects []impl.Object
+	want    int64
+}
+
+// faultyLists have each one fault, or several, of which the first one counts.
+func faultyLists() []faultyList {
+	set, later := at(impl.NewSet(3, 1), 1), at(impl.NewSet(4, 1), 2)
+	job, none, bad := at(impl.NewJob(2, 1, 0), 3), at(impl.Object{Kind: 5}, 1), at(impl.NewSet(5, 9), 1)
+	many := crowd(61)
+	listed := func(objects ...impl.Object) []impl.Object { return objects }
+	return []faultyList{
+		{"61 objects", 80, many, impl.ErrMany},
+		{"81 objects", 81, crowd(81), impl.ErrMany},
+		{"61 objects, the first has a fault", 80, append(listed(none), many[:60]...), impl.ErrMany},
+		{"61 objects that do not rise", 80, append(many[1:61:61], many[0]), impl.ErrMany},
+		{"an object of no Kind", 5, listed(none), impl.ErrForm},
+		{"an object of no Kind and no Rev", 5, listed(impl.Object{}), impl.ErrForm},
+		{"an object out of its bounds", 5, listed(bad), impl.ErrRange},
+		{"an object without a Rev", 5, listed(at(set, 0)), impl.ErrRange},
+		{"an object of a Rev below", 5, listed(at(set, -1)), impl.ErrRange},
+		{"an object of a Rev to come", 5, listed(at(set, 6)), impl.ErrRange},
+		{"an object of the Rev 1 where none was", 0, listed(set), impl.ErrRange},
+		{"the second object of a Rev to come", 5, listed(set, at(later, 6)), impl.ErrRange},
+		{"out of its bounds, then of no Kind", 5, listed(bad, none), impl.ErrRange},
+		{"of no Kind, then out of its bounds", 5, listed(none, bad), impl.ErrForm},
+		{"a Rev to come, then of no Kind", 5, listed(at(set, 6), none), impl.ErrRange},
+		{"of no Kind, then a Rev to come", 5, listed(none, at(set, 6)), impl.ErrForm},
+		{"two of the same Kind and Id", 5, listed(set, set), impl.ErrForm},
+		{"two of the same Kind and Id, all else other", 5, listed(set, at(impl.NewSet(3, 7), 4)), impl.ErrForm},
+		{"the wrong way round by Id", 5, listed(later, set), impl.ErrForm},
+		{"the wrong way round by Kind", 5, listed(job, set), impl.ErrForm},
+		{"the wrong way round by Kind, not by Id", 5, listed(job, later), impl.ErrForm},
+		{"the last two the wrong way round", 5, listed(set, at(podByHand(1, 3, 0, 0), 2), job), impl.ErrForm},
+		{"they do not rise, then out of its bounds", 5, listed(later, set, bad), impl.ErrRange},
+		{"they do not rise, then of no Kind", 5, listed(later, set, none), impl.ErrForm},
+		{"they do not rise, then a Rev to come", 5, listed(set, set, at(job, 6)), impl.ErrRange},
+	}
+}
+
 type faultyStore struct {
 	what string
 	s    impl.Store
@@ -165,42 +208,20 @@ func turned(s impl.Store, turn func(s *impl.Store)) impl.Store {
 func faultyStores() []faultyStore {
 	least, most := int64(math.MinInt64), int64(math.MaxInt64)
 	set, later := at(impl.NewSet(3, 1), 1), at(impl.NewSet(4, 1), 2)
-	job, none, bad := at(impl.NewJob(2, 1, 0), 3), at(impl.Object{Kind: 5}, 1), at(impl.NewSet(5, 9), 1)
-	many := crowd(61)
+	none, bad := at(impl.Object{Kind: 5}, 1), at(impl.NewSet(5, 9), 1)
 	list := []faultyStore{
-		{"61 objects", storeByHand(80, many...), impl.ErrMany},
-		{"81 objects", storeByHand(81, crowd(81)...), impl.ErrMany},
-		{"61 objects, the first has a fault", storeByHand(80, append([]impl.Object{none}, many[:60]...)...), impl.ErrMany},
-		{"61 objects that do not rise", storeByHand(80, append(many[1:61:61], many[0])...), impl.ErrMany},
 		{"13 changes", turned(storeByHand(13), func(s *impl.Store) { s.History = append(historyByHand(1), s.History...) }), impl.ErrMany},
 		{"13 changes, and an object with a fault", impl.Store{Rev: 13, Objects: []impl.Object{none}, History: make([]impl.Change, 13)}, impl.ErrMany},
 		{"500 changes of nothing", impl.Store{History: make([]impl.Change, 500)}, impl.ErrMany},
-		{"a Rev below, and 61 objects", impl.Store{Rev: -1, Objects: many}, impl.ErrRange},
+		{"a Rev below, and 61 objects", impl.Store{Rev: -1, Objects: crowd(61)}, impl.ErrRange},
 		{"a Rev beyond, and 13 changes", impl.Store{Rev: 100001, History: make([]impl.Change, 13)}, impl.ErrRange},
 		{"a Rev below, and an object of no Kind", impl.Store{Rev: -1, Objects: []impl.Object{none}}, impl.ErrRange},
-		{"an object of no Kind", storeByHand(5, none), impl.ErrForm},
-		{"an object of no Kind and no Rev", storeByHand(5, impl.Object{}), impl.ErrForm},
-		{"an object out of its bounds", storeByHand(5, bad), impl.ErrRange},
-		{"an object without a Rev", storeByHand(5, at(set, 0)), impl.ErrRange},
-		{"an object of a Rev below", storeByHand(5, at(set, -1)), impl.ErrRange},
-		{"an object of a Rev to come", storeByHand(5, at(set, 6)), impl.ErrRange},
-		{"an object of the Rev 1 where none was", storeByHand(0, set), impl.ErrRange},
-		{"the second object of a Rev to come", storeByHand(5, set, at(later, 6)), impl.ErrRange},
-		{"out of its bounds, then of no Kind", storeByHand(5, bad, none), impl.ErrRange},
-		{"of no Kind, then out of its bounds", storeByHand(5, none, bad), impl.ErrForm},
-		{"a Rev to come, then of no Kind", storeByHand(5, at(set, 6), none), impl.ErrRange},
-		{"of no Kind, then a Rev to come", storeByHand(5, none, at(set, 6)), impl.ErrForm},
-		{"two of the same Kind and Id", storeByHand(5, set, set), impl.ErrForm},
-		{"two of the same Kind and Id, all else other", storeByHand(5, set, at(impl.NewSet(3, 7), 4)), impl.ErrForm},
-		{"the wrong way round by Id", storeByHand(5, later, set), impl.ErrForm},
-		{"the wrong way round by Kind", storeByHand(5, job, set), impl.ErrForm},
-		{"the wrong way round by Kind, not by Id", storeByHand(5, job, later), impl.ErrForm},
-		{"the last two the wrong way round", storeByHand(5, set, at(podByHand(1, 3, 0, 0), 2), job), impl.ErrForm},
-		{"they do not rise, then out of its bounds", storeByHand(5, later, set, bad), impl.ErrRange},
-		{"they do not rise, then a Rev to come", storeByHand(5, set, set, at(job, 6)), impl.ErrRange},
 		{"they do not rise, and no changes", impl.Store{Rev: 5, Objects: []impl.Object{later, set}}, impl.ErrForm},
 		{"an object out of its bounds, and no changes", impl.Store{Rev: 5, Objects: []impl.Object{set, bad}}, impl.ErrRange},
 		{"no changes", impl.Store{Rev: 5, Objects: []impl.Object{set}}, impl.ErrState},
+	}
+	for _, l := range faultyLists() {
+		list = append(list, faultyStore{l.what, storeByHand(l.rev, l.objects...), l.want})
 	}
 	for _, rev := range []int64{least, -100000, -1, 100001, 1 << 32, most} {
 		list = append(list, faultyStore{"a Rev out of its bounds", impl.Store{Rev: rev}, impl.ErrRange})
@@ -209,10 +230,20 @@ func faultyStores() []faultyStore {
 	return append(list, faultyHistories()...)
 }
 
+// fromTheRev0 has one change too many: none was written at the Rev 0.
+func fromTheRev0() impl.Store {
+	return turned(storeByHand(11), func(s *impl.Store) {
+		s.History = append([]impl.Change{{Object: impl.NewSet(0, 1)}}, s.History...)
+	})
+}
+
 func faultyHistories() []faultyStore {
 	list := []faultyStore{
 		{"a change at first", impl.Store{History: []impl.Change{{Rev: 1, Object: at(impl.NewSet(0, 1), 1)}}}, impl.ErrState},
 		{"a change of the Rev 0", impl.Store{History: []impl.Change{{Object: impl.NewSet(0, 1)}}}, impl.ErrState},
+		{"12 changes at the Rev 11, the first one of the Rev 0", fromTheRev0(), impl.ErrState},
+		{"12 changes at the Rev 11, the first one of the Rev 0 and gone", turned(fromTheRev0(), func(s *impl.Store) { s.History[0].Gone = true }), impl.ErrState},
+		{"12 changes at the Rev 11, the first one of the Rev 0, and an object", turned(fromTheRev0(), func(s *impl.Store) { s.Objects = []impl.Object{at(impl.NewSet(0, 1), 11)} }), impl.ErrState},
 		{"12 changes of nothing", impl.Store{Rev: 12, History: make([]impl.Change, 12)}, impl.ErrState},
 		{"12 changes up to the Rev 3", turned(storeByHand(3), func(s *impl.Store) {
 			for rev := int64(0); rev >= -8; rev-- {
@@ -273,6 +304,26 @@ func TestStoreFaultAsksGoneChangesToo(t *testing.T) {
 	}
 }
 
+// objectsFaultByHand is the code of the objects of a store, or of a cache, at rev.
+func objectsFaultByHand(list []impl.Object, rev int64) int64 {
+	for _, o := range list {
+		if fault := impl.ObjectFault(o); fault != 0 {
+			return fault
+		}
+		if o.Rev < 1 || o.Rev > rev {
+			return impl.ErrRange
+		}
+	}
+	for i, o := range list {
+		for _, ahead := range list[:i] {
+			if ahead.Kind > o.Kind || ahead.Kind == o.Kind && ahead.Id >= o.Id {
+				return impl.ErrForm
+			}
+		}
+	}
+	return 0
+}
+
 // storeFaultByHand goes along the document line by line.
 func storeFaultByHand(s impl.Store) int64 {
 	if s.Rev < 0 || s.Rev > 100000 {
@@ -281,24 +332,12 @@ func storeFaultByHand(s impl.Store) int64 {
 	if len(s.Objects) > 60 || len(s.History) > 12 {
 		return impl.ErrMany
 	}
-	for _, o := range s.Objects {
-		if fault := impl.ObjectFault(o); fault != 0 {
-			return fault
-		}
-		if o.Rev < 1 || o.Rev > s.Rev {
-			return impl.ErrRange
-		}
-	}
-	for i, o := range s.Objects {
-		for _, ahead := range s.Objects[:i] {
-			if ahead.Kind > o.Kind || ahead.Kind == o.Kind && ahead.Id >= o.Id {
-				return impl.ErrForm
-			}
-		}
+	if fault := objectsFaultByHand(s.Objects, s.Rev); fault != 0 {
+		return fault
 	}
 	for i, c := range s.History {
 		last := i == len(s.History)-1
-		if impl.ObjectFault(c.Object) != 0 || c.Object.Rev != c.Rev || last && c.Rev != s.Rev || i > 0 && c.Rev != s.History[i-1].Rev+1 {
+		if impl.ObjectFault(c.Object) != 0 || c.Object.Rev != c.Rev || c.Rev < 1 || last && c.Rev != s.Rev || i > 0 && c.Rev != s.History[i-1].Rev+1 {
 			return impl.ErrState
 		}
 	}
@@ -410,25 +449,28 @@ func wantRefused(t *testing.T, what string, s impl.Store, w impl.Write, want int
 	}
 }
 
+// objectsAfter are the objects of list, but for the one of the change, which is at its place or is gone.
+func objectsAfter(list []impl.Object, c impl.Change) []impl.Object {
+	o, after, place := c.Object, []impl.Object{}, 0
+	for _, other := range list {
+		if other.Kind != o.Kind || other.Id != o.Id {
+			after = append(after, other)
+		}
+		if other.Kind < o.Kind || other.Kind == o.Kind && other.Id < o.Id {
+			place++
+		}
+	}
+	if c.Gone {
+		return after
+	}
+	return slices.Insert(after, place, o)
+}
+
 // afterByHand is the store behind a write that is taken.
 func afterByHand(s impl.Store, w impl.Write) impl.Store {
 	o := at(w.Object, s.Rev+1)
-	after := impl.Store{Rev: s.Rev + 1, History: slices.Clone(s.History)}
-	for _, other := range s.Objects {
-		if other.Kind != o.Kind || other.Id != o.Id {
-			after.Objects = append(after.Objects, other)
-		}
-	}
-	if w.Op == 1 {
-		place := 0
-		for _, other := range after.Objects {
-			if other.Kind < o.Kind || other.Kind == o.Kind && other.Id < o.Id {
-				place++
-			}
-		}
-		after.Objects = slices.Insert(after.Objects, place, o)
-	}
-	after.History = append(after.History, impl.Change{Rev: o.Rev, Gone: w.Op == 2, Object: o})
+	c := impl.Change{Rev: o.Rev, Gone: w.Op == 2, Object: o}
+	after := impl.Store{Rev: c.Rev, Objects: objectsAfter(s.Objects, c), History: append(slices.Clone(s.History), c)}
 	if len(after.History) == 13 {
 		after.History = after.History[1:]
 	}
@@ -865,14 +907,24 @@ func TestAPutStandsAtItsPlace(t *testing.T) {
 	}
 }
 
-// No line of the document keeps a change from the Rev 0, and twelve changes are not fewer than there may be.
-func TestAHistoryFromTheRev0(t *testing.T) {
-	s := storeByHand(11)
-	s.History = append([]impl.Change{{Object: impl.NewSet(0, 1)}}, s.History...)
-	if got := impl.StoreFault(s); got != impl.OK {
-		t.Error("StoreFault =", got)
+// A Rev of 0 says that no write was: the first change is that of the Rev 1, and there are never more changes than the Rev.
+func TestNoHistoryBeginsAtTheRev0(t *testing.T) {
+	for rev := int64(0); rev <= 13; rev++ {
+		for count := int64(0); count <= 12; count++ {
+			s := storeByHand(rev)
+			s.History = nil
+			for n := rev - count + 1; n <= rev; n++ {
+				s.History = append(s.History, impl.Change{Rev: n, Object: at(impl.NewSet(0, 1), n)})
+			}
+			want := int64(impl.ErrState)
+			if count == min(rev, 12) {
+				want = impl.OK
+			}
+			if got := impl.StoreFault(s); got != want {
+				t.Errorf("%d changes at the Rev %d: StoreFault = %d, not %d", count, rev, got, want)
+			}
+		}
 	}
-	wantTaken(t, "a set", s, put(impl.NewSet(0, 1), 0, 0))
 }
 
 // dice are numbers that look thrown, the same ones at each run.
