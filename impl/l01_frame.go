@@ -108,9 +108,7 @@ func TearDisk(disk []byte, body []byte, keep int64, at int64, mask int64) BytesR
 	if frame.Code != OK {
 		return BytesResult{Code: frame.Code}
 	}
-	// Where nothing is kept, at is 0, too.
-	lastAt := max(keep, 1) - 1
-	if !inBounds(span{keep, 0, int64(len(frame.Bytes))}, span{mask, 0, maxByte}, span{at, 0, lastAt}) {
+	if !isTear(keep, at, mask, int64(len(frame.Bytes))) {
 		return BytesResult{Code: ErrRange}
 	}
 	if len(disk)+len(frame.Bytes) > MaxDisk {
@@ -134,6 +132,13 @@ func inBounds(spans ...span) bool {
 		}
 	}
 	return true
+}
+
+// isTear tells whether a frame of size bytes can be torn so.
+func isTear(keep int64, at int64, mask int64, size int64) bool {
+	// Where nothing is kept, at is 0, too.
+	lastAt := max(keep, 1) - 1
+	return inBounds(span{keep, 0, size}, span{mask, 0, maxByte}, span{at, 0, lastAt})
 }
 
 // isWordSize is asked ahead of any shift by size: with another size that would overflow or panic.
